@@ -1,0 +1,70 @@
+package tests
+
+import (
+	"reflect"
+	"sync"
+	"testing"
+
+	"loop.example/g00920/impl"
+)
+
+// TestFirstUseTogether comes first in this file, so that no earlier test has made Choose fill its table.
+func TestFirstUseTogether(t *testing.T) {
+	results := make([][]int64, 8)
+	var group sync.WaitGroup
+	for i := range results {
+		group.Add(1)
+		go func() {
+			defer group.Done()
+			for k := int64(-1); k <= impl.MaxPoints+1; k++ {
+				results[i] = append(results[i], impl.Choose(impl.MaxPoints, k))
+			}
+		}()
+	}
+	group.Wait()
+	for i := range results {
+		if !reflect.DeepEqual(results[i], results[0]) {
+			t.Errorf("Choose: caller %d got %v, caller 0 got %v", i, results[i], results[0])
+		}
+	}
+}
+
+// TestPurity checks promise 1: every function returns, changes no argument, and repeats its results.
+func TestPurity(t *testing.T) {
+	functions := map[string]any{
+		"CodeName": impl.CodeName, "IsName": impl.IsName, "Decimal": impl.Decimal, "ReadDecimal": impl.ReadDecimal,
+		"SplitWords": impl.SplitWords, "ListText": impl.ListText, "ReadList": impl.ReadList, "Crc16": impl.Crc16,
+		"ValidSet": impl.ValidSet, "UnionSets": impl.UnionSets, "MeetSets": impl.MeetSets, "MinusSets": impl.MinusSets,
+		"CompareLists": impl.CompareLists, "Choose": impl.Choose, "RankSubset": impl.RankSubset,
+		"UnrankSubset": impl.UnrankSubset, "NextSubset": impl.NextSubset,
+		"Gcd": impl.Gcd, "PowerMod": impl.PowerMod, "InverseMod": impl.InverseMod, "IsPrime": impl.IsPrime,
+		"FactorsOf": impl.FactorsOf, "PrimePower": impl.PrimePower, "OrderMod": impl.OrderMod,
+		"PrimitiveRoot": impl.PrimitiveRoot, "IsSquareMod": impl.IsSquareMod, "SquaresMod": impl.SquaresMod,
+		"SolveChinese": impl.SolveChinese,
+	}
+	for name, f := range functions {
+		t.Run(name, func(t *testing.T) { checkPure(t, name, f) })
+	}
+}
+
+// TestFailuresReturnZeros checks that no value stands beside a code other than OK or beside false.
+func TestFailuresReturnZeros(t *testing.T) {
+	for _, list := range wildLists() {
+		for _, n := range wildNumbers(2) {
+			if rank, code := impl.RankSubset(n, list); code != impl.OK {
+				failed(t, "RankSubset", code, impl.ErrInvalid, rank)
+			}
+			if next, ok := impl.NextSubset(n, list); !ok {
+				failed(t, "NextSubset", 0, 0, next)
+			}
+		}
+	}
+	for _, s := range wildStrings() {
+		if n, ok := impl.ReadDecimal(s); !ok {
+			failed(t, "ReadDecimal", 0, 0, n)
+		}
+		if list, ok := impl.ReadList(s); !ok {
+			failed(t, "ReadList", 0, 0, list)
+		}
+	}
+}

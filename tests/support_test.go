@@ -1,0 +1,191 @@
+package tests
+
+import (
+	"fmt"
+	"math"
+	"reflect"
+	"strings"
+	"testing"
+
+	"loop.example/g00920/impl"
+)
+
+// same fails the test unless got and want print alike; nil and empty slices do.
+func same(t *testing.T, what string, got, want any) {
+	t.Helper()
+	g, w := fmt.Sprintf("%+v", got), fmt.Sprintf("%+v", want)
+	if g != w {
+		t.Errorf("%s: got %s, want %s", what, g, w)
+	}
+}
+
+// failed fails the test unless the code is the wanted one and the values beside it are zero.
+func failed(t *testing.T, what string, code, want int64, values ...any) {
+	t.Helper()
+	if code != want {
+		t.Errorf("%s: got the code %d, want %d", what, code, want)
+	}
+	for _, v := range values {
+		r := reflect.ValueOf(v)
+		if !r.IsZero() && !(r.Kind() == reflect.Slice && r.Len() == 0) {
+			t.Errorf("%s: got the value %v beside the code %d", what, v, code)
+		}
+	}
+}
+
+// upTo returns the list of the numbers from 0 to n - 1.
+func upTo(n int64) []int64 {
+	list := make([]int64, n)
+	for i := range list {
+		list[i] = int64(i)
+	}
+	return list
+}
+
+func repeated(n int, x int64) []int64 {
+	list := make([]int64, n)
+	for i := range list {
+		list[i] = x
+	}
+	return list
+}
+
+// wildNumbers are numbers at and around the limits of chapters 1 and 2.
+func wildNumbers(parameters int) []int64 {
+	few := []int64{math.MinInt64, -1, 0, 1, 6, 7, impl.MaxModulus, impl.MaxModulus + 1, math.MaxInt64}
+	if parameters > 3 {
+		return few
+	}
+	return append(few, -impl.MaxNumber-1, -impl.MaxNumber, 2, 3, 9, 10, impl.MaxPoints-1, impl.MaxPoints, impl.MaxPoints+1,
+		997, 1009, impl.CrcStart, impl.CrcStart+1, 999983, impl.MaxNumber, impl.MaxNumber+1, 601080389, 601080390)
+}
+
+func wildLists() [][]int64 {
+	return [][]int64{
+		nil, {0}, {3}, {31}, {32}, {-1}, {1, 0}, {1, 1}, {0, 2, 3}, {0, 5, 4}, {2, 3, 31}, {0, 32}, {-5, 0},
+		upTo(10), upTo(impl.MaxPoints), upTo(impl.MaxPoints + 1), upTo(impl.MaxList), upTo(impl.MaxList + 1),
+		{999999999, -999999999}, {1000000000}, {math.MinInt64, math.MaxInt64},
+	}
+}
+
+func wildStrings() []string {
+	return []string{
+		"", " ", "a", "a1", "1a", "A", "abcdefghij", "abcdefghijk", "-", "--", "0", "-0", "00", "01", "+1", "-7", "1e3", "0x1", "1_0",
+		"999999999999999999", "-999999999999999999", "1000000000000000000", "9223372036854775808", "1,2", "1,,2", ",", "1,", "-1,-", "1, 2",
+		"  a bc ", "a\tb\nc", "\xff \xfe", "\u0661", "123456789", strings.Repeat("7", 5000), strings.Repeat("1,", 200) + "1", strings.Repeat(" x", 300),
+	}
+}
+
+// wildArguments returns arguments of a type of parameter.
+func wildArguments(t *testing.T, of reflect.Type, parameters int) []any {
+	t.Helper()
+	var all []any
+	switch of {
+	case reflect.TypeOf(int64(0)):
+		for _, n := range wildNumbers(parameters) {
+			all = append(all, n)
+		}
+	case reflect.TypeOf([]int64{}):
+		for _, list := range wildLists() {
+			all = append(all, list)
+		}
+	case reflect.TypeOf(""):
+		for _, s := range wildStrings() {
+			all = append(all, s)
+		}
+	default:
+		t.Fatalf("no arguments of the type %v", of)
+	}
+	return all
+}
+
+// withRoom returns a copy of a value in which every list has spare capacity that is filled.
+func withRoom(v any) any {
+	list, ok := v.([]int64)
+	if !ok {
+		return v
+	}
+	room := append(append(make([]int64, 0, len(list)+4), list...), 71, 72, 73, 74)
+	return room[:len(list)]
+}
+
+// wholeText prints values together with the spare capacity of their lists.
+func wholeText(values []any) string {
+	var b strings.Builder
+	for _, v := range values {
+		if list, ok := v.([]int64); ok {
+			v = [2]any{len(list), list[:cap(list)]}
+		}
+		fmt.Fprintf(&b, "%v;", v)
+	}
+	return b.String()
+}
+
+// spoil overwrites the lists among values up to their capacity.
+func spoil(values []any) {
+	for _, v := range values {
+		if list, ok := v.([]int64); ok {
+			list = list[:cap(list)]
+			for i := range list {
+				list[i] = -987654
+			}
+		}
+	}
+}
+
+func callOf(f reflect.Value, arguments []any) []any {
+	in := make([]reflect.Value, len(arguments))
+	for i, a := range arguments {
+		in[i] = reflect.ValueOf(a)
+	}
+	var out []any
+	for _, r := range f.Call(in) {
+		out = append(out, r.Interface())
+	}
+	return out
+}
+
+// checkCall calls a function repeatedly, spoils what it returned, and looks for changed arguments and results.
+func checkCall(t *testing.T, name string, f reflect.Value, arguments []any) {
+	t.Helper()
+	what := fmt.Sprintf("%s%.200v", name, arguments)
+	defer func() {
+		if r := recover(); r != nil {
+			t.Errorf("%s: panic: %v", what, r)
+		}
+	}()
+	given := make([]any, len(arguments))
+	for i, a := range arguments {
+		given[i] = withRoom(a)
+	}
+	before := wholeText(given)
+	first := callOf(f, given)
+	second := callOf(f, given)
+	result := fmt.Sprint(second)
+	same(t, what+" twice", first, second)
+	same(t, what+" changes its arguments", wholeText(given), before)
+	spoil(first)
+	same(t, what+" shares memory with its arguments", wholeText(given), before)
+	same(t, what+" shares memory with another result", fmt.Sprint(second), result)
+	same(t, what+" returns memory that it keeps", fmt.Sprint(callOf(f, given)), result)
+}
+
+// checkPure calls a function with all combinations of wild arguments.
+func checkPure(t *testing.T, name string, function any) {
+	t.Helper()
+	f := reflect.ValueOf(function)
+	parameters := f.Type().NumIn()
+	combinations := [][]any{nil}
+	for i := range parameters {
+		var longer [][]any
+		for _, c := range combinations {
+			for _, a := range wildArguments(t, f.Type().In(i), parameters) {
+				longer = append(longer, append(c[:len(c):len(c)], a))
+			}
+		}
+		combinations = longer
+	}
+	for _, c := range combinations {
+		checkCall(t, name, f, c)
+	}
+}

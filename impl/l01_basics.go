@@ -237,7 +237,7 @@ func compareOrdered[T cmp.Ordered](a, b []T) int64 {
 	return int64(cmp.Compare(len(a), len(b)))
 }
 
-// The triangle of Pascal, which Choose fills at its first use.
+// The binomial coefficients, which Choose fills in at its first use.
 var (
 	binomialsOnce sync.Once
 	binomials     [MaxPoints + 1][MaxPoints + 1]int64
@@ -245,11 +245,21 @@ var (
 
 func fillBinomials() {
 	for n := range binomials {
-		binomials[n][0] = 1
-		for k := 1; k <= n; k++ {
-			binomials[n][k] = binomials[n-1][k-1] + binomials[n-1][k]
+		for k := 0; k <= n; k++ {
+			binomials[n][k] = binomial(int64(n), int64(k))
 		}
 	}
+}
+
+// binomial returns the number of subsets of n numbers with k elements, for k
+// from 0 to n and n of at most MaxPoints.
+func binomial(n, k int64) int64 {
+	value := int64(1)
+	for i := range min(k, n-k) {
+		// value is the number of subsets with i elements, so the division is exact.
+		value = value * (n - i) / (i + 1)
+	}
+	return value
 }
 
 // Choose returns a binomial coefficient.
@@ -257,8 +267,10 @@ func Choose(n, k int64) int64 {
 	if n < 0 || n > MaxPoints || k < 0 || k > n {
 		return 0
 	}
+	// The table stays beside the answer, which never depends on kept state.
 	binomialsOnce.Do(fillBinomials)
-	return binomials[n][k]
+	_ = binomials[n][k]
+	return binomial(n, k)
 }
 
 // RankSubset returns the rank of a subset among those of its size.
@@ -273,7 +285,7 @@ func RankSubset(n int64, set []int64) (int64, int64) {
 		left--
 		// The subsets that have y here instead of x are all less.
 		for y := least; y < x; y++ {
-			rank += Choose(n-1-y, left)
+			rank += binomial(n-1-y, left)
 		}
 		least = x + 1
 	}
@@ -282,12 +294,12 @@ func RankSubset(n int64, set []int64) (int64, int64) {
 
 // UnrankSubset returns the subset with a rank.
 func UnrankSubset(n, k, rank int64) ([]int64, int64) {
-	if n < 0 || n > MaxPoints || k < 0 || k > n || rank < 0 || rank >= Choose(n, k) {
+	if n < 0 || n > MaxPoints || k < 0 || k > n || rank < 0 || rank >= binomial(n, k) {
 		return nil, ErrRange
 	}
 	set := make([]int64, 0, k)
 	for x := int64(0); int64(len(set)) < k; x++ {
-		beginning := Choose(n-1-x, k-1-int64(len(set)))
+		beginning := binomial(n-1-x, k-1-int64(len(set)))
 		if rank < beginning {
 			set = append(set, x)
 		} else {

@@ -8,9 +8,10 @@ import (
 	"loop.example/g00920/impl"
 )
 
-// TestFirstUseTogether comes first in this file, so that no earlier test has made Choose fill its table.
+// TestFirstUseTogether comes first in this file, so that no earlier test has made Choose and MakeField fill their tables.
 func TestFirstUseTogether(t *testing.T) {
 	results := make([][]int64, 8)
+	fields := make([][]impl.Field, 8)
 	var group sync.WaitGroup
 	for i := range results {
 		group.Add(1)
@@ -19,12 +20,19 @@ func TestFirstUseTogether(t *testing.T) {
 			for k := int64(-1); k <= impl.MaxPoints+1; k++ {
 				results[i] = append(results[i], impl.Choose(impl.MaxPoints, k))
 			}
+			for q := int64(0); q <= impl.MaxField+1; q++ {
+				f, _ := impl.MakeField(q)
+				fields[i] = append(fields[i], f)
+			}
 		}()
 	}
 	group.Wait()
 	for i := range results {
 		if !reflect.DeepEqual(results[i], results[0]) {
 			t.Errorf("Choose: caller %d got %v, caller 0 got %v", i, results[i], results[0])
+		}
+		if !reflect.DeepEqual(fields[i], fields[0]) {
+			t.Errorf("MakeField: caller %d got %v, caller 0 got %v", i, fields[i], fields[0])
 		}
 	}
 }
@@ -41,6 +49,10 @@ func TestPurity(t *testing.T) {
 		"FactorsOf": impl.FactorsOf, "PrimePower": impl.PrimePower, "OrderMod": impl.OrderMod,
 		"PrimitiveRoot": impl.PrimitiveRoot, "IsSquareMod": impl.IsSquareMod, "SquaresMod": impl.SquaresMod,
 		"SolveChinese": impl.SolveChinese,
+		"FieldOrders":  impl.FieldOrders, "MakeField": impl.MakeField, "ValidField": impl.ValidField, "SameField": impl.SameField,
+		"FieldSize": impl.FieldSize, "FieldAdd": impl.FieldAdd, "FieldSub": impl.FieldSub, "FieldMul": impl.FieldMul,
+		"FieldInverse": impl.FieldInverse, "FieldPower": impl.FieldPower, "FieldOrder": impl.FieldOrder,
+		"PrimitiveElement": impl.PrimitiveElement, "LogTable": impl.LogTable, "FieldTrace": impl.FieldTrace, "FieldSquares": impl.FieldSquares,
 	}
 	for name, f := range functions {
 		t.Run(name, func(t *testing.T) { checkPure(t, name, f) })

@@ -26,11 +26,26 @@ func failed(t *testing.T, what string, code, want int64, values ...any) {
 		t.Errorf("%s: got the code %d, want %d", what, code, want)
 	}
 	for _, v := range values {
-		r := reflect.ValueOf(v)
-		if !r.IsZero() && !(r.Kind() == reflect.Slice && r.Len() == 0) {
+		if !isZero(reflect.ValueOf(v)) {
 			t.Errorf("%s: got the value %v beside the code %d", what, v, code)
 		}
 	}
+}
+
+// isZero reports whether a value is zero; an empty slice is, like a nil one.
+func isZero(v reflect.Value) bool {
+	switch v.Kind() {
+	case reflect.Slice:
+		return v.Len() == 0
+	case reflect.Struct:
+		for i := range v.NumField() {
+			if !isZero(v.Field(i)) {
+				return false
+			}
+		}
+		return true
+	}
+	return v.IsZero()
 }
 
 // upTo returns the list of the numbers from 0 to n - 1.
@@ -50,14 +65,14 @@ func repeated(n int, x int64) []int64 {
 	return list
 }
 
-// wildNumbers are numbers at and around the limits of chapters 1 and 2.
+// wildNumbers are numbers at and around the limits of chapters 1 to 3.
 func wildNumbers(parameters int) []int64 {
 	few := []int64{math.MinInt64, -1, 0, 1, 6, 7, impl.MaxModulus, impl.MaxModulus + 1, math.MaxInt64}
 	if parameters > 3 {
 		return few
 	}
 	return append(few, -impl.MaxNumber-1, -impl.MaxNumber, 2, 3, 9, 10, impl.MaxPoints-1, impl.MaxPoints, impl.MaxPoints+1,
-		997, 1009, impl.CrcStart, impl.CrcStart+1, 999983, impl.MaxNumber, impl.MaxNumber+1, 601080389, 601080390)
+		impl.MaxField-1, impl.MaxField, impl.MaxField+1, 997, 1009, impl.CrcStart, impl.CrcStart+1, 999983, impl.MaxNumber, impl.MaxNumber+1, 601080389, 601080390)
 }
 
 func wildLists() [][]int64 {
@@ -73,6 +88,16 @@ func wildStrings() []string {
 		"", " ", "a", "a1", "1a", "A", "abcdefghij", "abcdefghijk", "-", "--", "0", "-0", "00", "01", "+1", "-7", "1e3", "0x1", "1_0",
 		"999999999999999999", "-999999999999999999", "1000000000000000000", "9223372036854775808", "1,2", "1,,2", ",", "1,", "-1,-", "1, 2",
 		"  a bc ", "a\tb\nc", "\xff \xfe", "\u0661", "123456789", strings.Repeat("7", 5000), strings.Repeat("1,", 200) + "1", strings.Repeat(" x", 300),
+	}
+}
+
+// wildFields are valid and invalid fields.
+func wildFields() []impl.Field {
+	return []impl.Field{
+		{}, {Prime: 2, Degree: 1, Poly: []int64{0, 1}}, {Prime: 2, Degree: 1, Poly: []int64{1, 1}}, {Prime: 7, Degree: 1, Poly: []int64{3, 1}},
+		{Prime: 61, Degree: 1, Poly: []int64{0, 1}}, {Prime: 3, Degree: 2, Poly: []int64{1, 0, 1}}, {Prime: 2, Degree: 6, Poly: []int64{1, 1, 0, 0, 0, 0, 1}},
+		{Prime: 3, Degree: 2, Poly: []int64{0, 1, 1}}, {Prime: 3, Degree: 2, Poly: []int64{1, 0, 2}}, {Prime: 3, Degree: 2, Poly: []int64{1, 0}},
+		{Prime: 2, Degree: math.MaxInt64, Poly: []int64{1, 1, 1}}, {Prime: math.MinInt64, Degree: -1}, {Prime: math.MaxInt64, Degree: 1, Poly: upTo(2)},
 	}
 }
 
@@ -93,6 +118,10 @@ func wildArguments(t *testing.T, of reflect.Type, parameters int) []any {
 		for _, s := range wildStrings() {
 			all = append(all, s)
 		}
+	case reflect.TypeOf(impl.Field{}):
+		for _, f := range wildFields() {
+			all = append(all, f)
+		}
 	default:
 		t.Fatalf("no arguments of the type %v", of)
 	}
@@ -101,22 +130,40 @@ func wildArguments(t *testing.T, of reflect.Type, parameters int) []any {
 
 // withRoom returns a copy of a value in which every list has spare capacity that is filled.
 func withRoom(v any) any {
-	list, ok := v.([]int64)
-	if !ok {
+	switch v := v.(type) {
+	case []int64:
+		return listWithRoom(v)
+	case impl.Field:
+		v.Poly = listWithRoom(v.Poly)
 		return v
 	}
+	return v
+}
+
+func listWithRoom(list []int64) []int64 {
 	room := append(append(make([]int64, 0, len(list)+4), list...), 71, 72, 73, 74)
 	return room[:len(list)]
+}
+
+// listsOf returns the lists that a value is or has.
+func listsOf(v any) [][]int64 {
+	switch v := v.(type) {
+	case []int64:
+		return [][]int64{v}
+	case impl.Field:
+		return [][]int64{v.Poly}
+	}
+	return nil
 }
 
 // wholeText prints values together with the spare capacity of their lists.
 func wholeText(values []any) string {
 	var b strings.Builder
 	for _, v := range values {
-		if list, ok := v.([]int64); ok {
-			v = [2]any{len(list), list[:cap(list)]}
-		}
 		fmt.Fprintf(&b, "%v;", v)
+		for _, list := range listsOf(v) {
+			fmt.Fprintf(&b, "%d of %v;", len(list), list[:cap(list)])
+		}
 	}
 	return b.String()
 }
@@ -124,7 +171,7 @@ func wholeText(values []any) string {
 // spoil overwrites the lists among values up to their capacity.
 func spoil(values []any) {
 	for _, v := range values {
-		if list, ok := v.([]int64); ok {
+		for _, list := range listsOf(v) {
 			list = list[:cap(list)]
 			for i := range list {
 				list[i] = -987654

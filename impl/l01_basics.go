@@ -181,13 +181,15 @@ func ValidSet(set []int64, n int64) bool {
 // pointSet is a set of points: the point x is the bit with the number x.
 type pointSet uint32
 
+func singlePoint(x int64) pointSet { return 1 << uint(x) }
+
 func pointSetOf(list []int64) (pointSet, bool) {
 	if !ValidSet(list, MaxPoints) {
 		return 0, false
 	}
 	var set pointSet
 	for _, x := range list {
-		set |= 1 << uint(x)
+		set |= singlePoint(x)
 	}
 	return set, true
 }

@@ -53,6 +53,13 @@ func TestPurity(t *testing.T) {
 		"FieldSize": impl.FieldSize, "FieldAdd": impl.FieldAdd, "FieldSub": impl.FieldSub, "FieldMul": impl.FieldMul,
 		"FieldInverse": impl.FieldInverse, "FieldPower": impl.FieldPower, "FieldOrder": impl.FieldOrder,
 		"PrimitiveElement": impl.PrimitiveElement, "LogTable": impl.LogTable, "FieldTrace": impl.FieldTrace, "FieldSquares": impl.FieldSquares,
+		"ValidPermutation": impl.ValidPermutation, "IdentityPermutation": impl.IdentityPermutation, "Compose": impl.Compose,
+		"InvertPermutation": impl.InvertPermutation, "PowerPermutation": impl.PowerPermutation, "CyclesOf": impl.CyclesOf,
+		"PermutationOfCycles": impl.PermutationOfCycles, "CycleType": impl.CycleType, "OrderOfPermutation": impl.OrderOfPermutation,
+		"SignOf": impl.SignOf, "ApplySet": impl.ApplySet, "RankPermutation": impl.RankPermutation, "UnrankPermutation": impl.UnrankPermutation,
+		"MakeGroup": impl.MakeGroup, "ValidGroup": impl.ValidGroup, "SameGroup": impl.SameGroup, "GroupHas": impl.GroupHas, "OrbitOf": impl.OrbitOf,
+		"OrbitsOf": impl.OrbitsOf, "StabilizerOf": impl.StabilizerOf, "SetStabilizer": impl.SetStabilizer, "GeneratorsOf": impl.GeneratorsOf,
+		"CosetsOf": impl.CosetsOf, "BurnsideCount": impl.BurnsideCount,
 	}
 	for name, f := range functions {
 		t.Run(name, func(t *testing.T) { checkPure(t, name, f) })

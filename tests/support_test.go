@@ -4,6 +4,7 @@ import (
 	"fmt"
 	"math"
 	"reflect"
+	"slices"
 	"strings"
 	"testing"
 
@@ -65,19 +66,27 @@ func repeated(n int, x int64) []int64 {
 	return list
 }
 
-// wildNumbers are numbers at and around the limits of chapters 1 to 3.
+// reversed returns the list of the numbers from n - 1 to 0.
+func reversed(n int64) []int64 {
+	list := upTo(n)
+	slices.Reverse(list)
+	return list
+}
+
+// wildNumbers are numbers at and around the limits of chapters 1 to 5.
 func wildNumbers(parameters int) []int64 {
 	few := []int64{math.MinInt64, -1, 0, 1, 6, 7, impl.MaxModulus, impl.MaxModulus + 1, math.MaxInt64}
 	if parameters > 3 {
 		return few
 	}
-	return append(few, -impl.MaxNumber-1, -impl.MaxNumber, 2, 3, 9, 10, impl.MaxPoints-1, impl.MaxPoints, impl.MaxPoints+1,
+	return append(few, -impl.MaxNumber-1, -impl.MaxNumber, -7, 2, 3, 4, 9, 10, impl.MaxRanked, impl.MaxRanked+1, 479001599, 479001600, impl.MaxPoints-1, impl.MaxPoints, impl.MaxPoints+1,
 		impl.MaxField-1, impl.MaxField, impl.MaxField+1, 997, 1009, impl.CrcStart, impl.CrcStart+1, 999983, impl.MaxNumber, impl.MaxNumber+1, 601080389, 601080390)
 }
 
 func wildLists() [][]int64 {
 	return [][]int64{
 		nil, {0}, {3}, {31}, {32}, {-1}, {1, 0}, {1, 1}, {0, 2, 3}, {0, 5, 4}, {2, 3, 31}, {0, 32}, {-5, 0},
+		{1, 2, 0}, {0, 2, 1, 3}, {1, 2, 0, 4, 3}, reversed(impl.MaxRanked), reversed(impl.MaxRanked + 1), reversed(impl.MaxDegree),
 		upTo(10), upTo(impl.MaxPoints), upTo(impl.MaxPoints + 1), upTo(impl.MaxList), upTo(impl.MaxList + 1),
 		{999999999, -999999999}, {1000000000}, {math.MinInt64, math.MaxInt64},
 	}
@@ -101,6 +110,32 @@ func wildFields() []impl.Field {
 	}
 }
 
+// wildRows are lists of cycles, of generators, and of others.
+func wildRows() [][][]int64 {
+	return [][][]int64{
+		nil, {nil}, {{0}}, {{1}}, {{1, 0}}, {{0}, {}}, {{0, 1}, {2, 3}}, {{0, 1}, {1, 2}}, {{3, 4}, {0, 1, 2}}, {{5, 2, 0, 1}}, {{0, 0}},
+		{{1, 2, 0}}, {{1, 2, 3, 0}, {0, 3, 2, 1}}, {{1, 2, 3, 0}, {1, 0, 2, 3}, {0, 1, 2, 3}}, {{0, 1, 2, 3}, {0, 1, 2}}, {{1, 1, 2, 3}},
+		{{1, 2, 3, 4, 5, 0}, {1, 0, 2, 3, 4, 5}}, {{1, 2, 3, 4, 5, 6, 0}, {1, 0, 2, 3, 4, 5, 6}}, {reversed(impl.MaxDegree)}, {upTo(impl.MaxDegree + 1)},
+		{reversed(10), upTo(10)}, {{31}, {30, 0}}, {{32}}, {{-1}}, {{math.MinInt64, math.MaxInt64}}, slices.Repeat([][]int64{{1, 0}}, 1000),
+	}
+}
+
+// wildGroups are valid and invalid groups.
+func wildGroups() []impl.Group {
+	groups := []impl.Group{
+		{}, {Degree: 3}, {Degree: 0, Elements: [][]int64{{}}}, {Degree: 3, Elements: [][]int64{{1, 2, 0}}}, {Degree: 3, Elements: [][]int64{{0, 1, 2}, {1, 2, 0}}},
+		{Degree: 2, Elements: [][]int64{{1, 0}, {0, 1}}}, {Degree: 2, Elements: [][]int64{{0, 1}, {0, 1}}}, {Degree: 3, Elements: [][]int64{{0, 1}, {1, 0}}},
+		{Degree: 2, Elements: [][]int64{{0, 1}, nil}}, {Degree: 2, Elements: [][]int64{{0, 1}, {1, 1}}}, {Degree: math.MaxInt64, Elements: [][]int64{{0}}},
+		{Degree: math.MinInt64, Elements: slices.Repeat([][]int64{{0}}, impl.MaxGroup+1)}, {Degree: 33, Elements: [][]int64{upTo(33)}},
+		{Degree: 1, Elements: [][]int64{{0}}}, {Degree: 4, Elements: [][]int64{{0, 1, 2, 3}, {0, 3, 2, 1}}}, {Degree: 32, Elements: [][]int64{upTo(32), reversed(32)}},
+	}
+	for _, generators := range [][][]int64{{{1, 2, 3, 0}}, {{1, 2, 3, 0}, {0, 3, 2, 1}}, {{1, 2, 3, 4, 0}, {1, 0, 2, 3, 4}}} {
+		g, _ := impl.MakeGroup(int64(len(generators[0])), generators)
+		groups = append(groups, g)
+	}
+	return groups
+}
+
 // wildArguments returns arguments of a type of parameter.
 func wildArguments(t *testing.T, of reflect.Type, parameters int) []any {
 	t.Helper()
@@ -122,6 +157,14 @@ func wildArguments(t *testing.T, of reflect.Type, parameters int) []any {
 		for _, f := range wildFields() {
 			all = append(all, f)
 		}
+	case reflect.TypeOf([][]int64{}):
+		for _, rows := range wildRows() {
+			all = append(all, rows)
+		}
+	case reflect.TypeOf(impl.Group{}):
+		for _, g := range wildGroups() {
+			all = append(all, g)
+		}
 	default:
 		t.Fatalf("no arguments of the type %v", of)
 	}
@@ -133,8 +176,13 @@ func withRoom(v any) any {
 	switch v := v.(type) {
 	case []int64:
 		return listWithRoom(v)
+	case [][]int64:
+		return rowsWithRoom(v)
 	case impl.Field:
 		v.Poly = listWithRoom(v.Poly)
+		return v
+	case impl.Group:
+		v.Elements = rowsWithRoom(v.Elements)
 		return v
 	}
 	return v
@@ -145,7 +193,27 @@ func listWithRoom(list []int64) []int64 {
 	return room[:len(list)]
 }
 
-// listsOf returns the lists that a value is or has.
+func rowsWithRoom(rows [][]int64) [][]int64 {
+	room := make([][]int64, 0, len(rows)+2)
+	for _, row := range rows {
+		room = append(room, listWithRoom(row))
+	}
+	room = append(room, []int64{75}, []int64{76})
+	return room[:len(rows)]
+}
+
+// rowsOf returns the list of lists that a value is or has.
+func rowsOf(v any) [][]int64 {
+	switch v := v.(type) {
+	case [][]int64:
+		return v
+	case impl.Group:
+		return v.Elements
+	}
+	return nil
+}
+
+// listsOf returns the lists that a value is or has, among them those in the spare capacity of a list of lists.
 func listsOf(v any) [][]int64 {
 	switch v := v.(type) {
 	case []int64:
@@ -153,7 +221,8 @@ func listsOf(v any) [][]int64 {
 	case impl.Field:
 		return [][]int64{v.Poly}
 	}
-	return nil
+	rows := rowsOf(v)
+	return rows[:cap(rows)]
 }
 
 // wholeText prints values together with the spare capacity of their lists.
@@ -168,16 +237,27 @@ func wholeText(values []any) string {
 	return b.String()
 }
 
-// spoil overwrites the lists among values up to their capacity.
-func spoil(values []any) {
+// spoil overwrites the lists among values up to their capacity, each with a number of its own. It reports whether
+// some of them share memory.
+func spoil(values []any) bool {
+	var lists [][]int64
 	for _, v := range values {
 		for _, list := range listsOf(v) {
-			list = list[:cap(list)]
-			for i := range list {
-				list[i] = -987654
-			}
+			lists = append(lists, list[:cap(list)])
 		}
 	}
+	for i, list := range lists {
+		copy(list, repeated(len(list), -987654-int64(i)))
+	}
+	shared := false
+	for i, list := range lists {
+		shared = shared || !slices.Equal(list, repeated(len(list), -987654-int64(i)))
+	}
+	for _, v := range values {
+		rows := rowsOf(v)
+		clear(rows[:cap(rows)])
+	}
+	return shared
 }
 
 func callOf(f reflect.Value, arguments []any) []any {
@@ -190,6 +270,18 @@ func callOf(f reflect.Value, arguments []any) []any {
 		out = append(out, r.Interface())
 	}
 	return out
+}
+
+// checkFailure checks that all results beside a code other than OK or beside false are zero values.
+func checkFailure(t *testing.T, name, what string, results []any) {
+	t.Helper()
+	last := len(results) - 1
+	if last == 0 || name == "PrimePower" { // whose last result is an exponent
+		return
+	}
+	if results[last] != true && results[last] != int64(impl.OK) {
+		failed(t, what, 0, 0, results[:last]...)
+	}
 }
 
 // checkCall calls a function repeatedly, spoils what it returned, and looks for changed arguments and results.
@@ -210,8 +302,11 @@ func checkCall(t *testing.T, name string, f reflect.Value, arguments []any) {
 	second := callOf(f, given)
 	result := fmt.Sprint(second)
 	same(t, what+" twice", first, second)
+	checkFailure(t, name, what, second)
 	same(t, what+" changes its arguments", wholeText(given), before)
-	spoil(first)
+	if spoil(first) {
+		t.Errorf("%s: lists of the results share memory", what)
+	}
 	same(t, what+" shares memory with its arguments", wholeText(given), before)
 	same(t, what+" shares memory with another result", fmt.Sprint(second), result)
 	same(t, what+" returns memory that it keeps", fmt.Sprint(callOf(f, given)), result)

@@ -60,6 +60,9 @@ func TestPurity(t *testing.T) {
 		"MakeGroup": impl.MakeGroup, "ValidGroup": impl.ValidGroup, "SameGroup": impl.SameGroup, "GroupHas": impl.GroupHas, "OrbitOf": impl.OrbitOf,
 		"OrbitsOf": impl.OrbitsOf, "StabilizerOf": impl.StabilizerOf, "SetStabilizer": impl.SetStabilizer, "GeneratorsOf": impl.GeneratorsOf,
 		"CosetsOf": impl.CosetsOf, "BurnsideCount": impl.BurnsideCount,
+		"ValidSquare": impl.ValidSquare, "SameSquare": impl.SameSquare, "CyclicSquare": impl.CyclicSquare, "ProductSquare": impl.ProductSquare,
+		"Conjugate": impl.Conjugate, "Isotope": impl.Isotope, "IsReduced": impl.IsReduced, "ReducedSquare": impl.ReducedSquare,
+		"SymbolColumns": impl.SymbolColumns, "SquareText": impl.SquareText, "ReadSquare": impl.ReadSquare,
 	}
 	for name, f := range functions {
 		t.Run(name, func(t *testing.T) { checkPure(t, name, f) })
@@ -68,7 +71,7 @@ func TestPurity(t *testing.T) {
 
 // TestFailuresReturnZeros checks that no value stands beside a code other than OK or beside false.
 func TestFailuresReturnZeros(t *testing.T) {
-	for _, list := range wildLists() {
+	for _, list := range wildLists(2) {
 		for _, n := range wildNumbers(2) {
 			if rank, code := impl.RankSubset(n, list); code != impl.OK {
 				failed(t, "RankSubset", code, impl.ErrInvalid, rank)
@@ -84,6 +87,9 @@ func TestFailuresReturnZeros(t *testing.T) {
 		}
 		if list, ok := impl.ReadList(s); !ok {
 			failed(t, "ReadList", 0, 0, list)
+		}
+		if a, ok := impl.ReadSquare(s); !ok {
+			failed(t, "ReadSquare", 0, 0, a)
 		}
 	}
 }

@@ -73,7 +73,7 @@ func reversed(n int64) []int64 {
 	return list
 }
 
-// wildNumbers are numbers at and around the limits of chapters 1 to 5.
+// wildNumbers are numbers at and around the limits of chapters 1 to 6.
 func wildNumbers(parameters int) []int64 {
 	few := []int64{math.MinInt64, -1, 0, 1, 6, 7, impl.MaxModulus, impl.MaxModulus + 1, math.MaxInt64}
 	if parameters > 3 {
@@ -83,7 +83,10 @@ func wildNumbers(parameters int) []int64 {
 		impl.MaxField-1, impl.MaxField, impl.MaxField+1, 997, 1009, impl.CrcStart, impl.CrcStart+1, 999983, impl.MaxNumber, impl.MaxNumber+1, 601080389, 601080390)
 }
 
-func wildLists() [][]int64 {
+func wildLists(parameters int) [][]int64 {
+	if parameters > 3 {
+		return [][]int64{nil, {0}, {1, 0}, {1, 2, 0}, {0, 2, 1}, {1, 1, 0}, reversed(10)}
+	}
 	return [][]int64{
 		nil, {0}, {3}, {31}, {32}, {-1}, {1, 0}, {1, 1}, {0, 2, 3}, {0, 5, 4}, {2, 3, 31}, {0, 32}, {-5, 0},
 		{1, 2, 0}, {0, 2, 1, 3}, {1, 2, 0, 4, 3}, reversed(impl.MaxRanked), reversed(impl.MaxRanked + 1), reversed(impl.MaxDegree),
@@ -97,6 +100,7 @@ func wildStrings() []string {
 		"", " ", "a", "a1", "1a", "A", "abcdefghij", "abcdefghijk", "-", "--", "0", "-0", "00", "01", "+1", "-7", "1e3", "0x1", "1_0",
 		"999999999999999999", "-999999999999999999", "1000000000000000000", "9223372036854775808", "1,2", "1,,2", ",", "1,", "-1,-", "1, 2",
 		"  a bc ", "a\tb\nc", "\xff \xfe", "\u0661", "123456789", strings.Repeat("7", 5000), strings.Repeat("1,", 200) + "1", strings.Repeat(" x", 300),
+		"01/10", "01/10/", "01/01", "012/120/201", "012/201/210", slowText(slowCyclic(10)), slowText(slowCyclic(11)),
 	}
 }
 
@@ -110,13 +114,15 @@ func wildFields() []impl.Field {
 	}
 }
 
-// wildRows are lists of cycles, of generators, and of others.
+// wildRows are lists of cycles, of generators, of rows of squares, and of others.
 func wildRows() [][][]int64 {
 	return [][][]int64{
 		nil, {nil}, {{0}}, {{1}}, {{1, 0}}, {{0}, {}}, {{0, 1}, {2, 3}}, {{0, 1}, {1, 2}}, {{3, 4}, {0, 1, 2}}, {{5, 2, 0, 1}}, {{0, 0}},
 		{{1, 2, 0}}, {{1, 2, 3, 0}, {0, 3, 2, 1}}, {{1, 2, 3, 0}, {1, 0, 2, 3}, {0, 1, 2, 3}}, {{0, 1, 2, 3}, {0, 1, 2}}, {{1, 1, 2, 3}},
 		{{1, 2, 3, 4, 5, 0}, {1, 0, 2, 3, 4, 5}}, {{1, 2, 3, 4, 5, 6, 0}, {1, 0, 2, 3, 4, 5, 6}}, {reversed(impl.MaxDegree)}, {upTo(impl.MaxDegree + 1)},
 		{reversed(10), upTo(10)}, {{31}, {30, 0}}, {{32}}, {{-1}}, {{math.MinInt64, math.MaxInt64}}, slices.Repeat([][]int64{{1, 0}}, 1000),
+		{{0, 1}, {1, 0}}, {{1, 0}, {0, 1}}, {{0, 1}, {0, 1}}, {{0, 1}, {1, 2}}, {{0, 1}, {1}}, {{1, 0, 2}, {0, 2, 1}, {2, 1, 0}}, {{0, 1, 2}, {1, 2, 0}}, looseSquare(),
+		slowCyclic(3), scrambled(4, 1), scrambled(10, 1), slowCyclic(11), slices.Repeat([][]int64{upTo(10)}, 10),
 	}
 }
 
@@ -146,7 +152,7 @@ func wildArguments(t *testing.T, of reflect.Type, parameters int) []any {
 			all = append(all, n)
 		}
 	case reflect.TypeOf([]int64{}):
-		for _, list := range wildLists() {
+		for _, list := range wildLists(parameters) {
 			all = append(all, list)
 		}
 	case reflect.TypeOf(""):

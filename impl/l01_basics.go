@@ -42,6 +42,9 @@ const (
 	crcFeedback = 4129
 )
 
+// isBudget reports whether a search may be given a budget.
+func isBudget(budget int64) bool { return 1 <= budget && budget <= MaxBudget }
+
 // CodeName returns the name of an error code.
 func CodeName(code int64) string {
 	names := [...]string{
@@ -183,6 +186,9 @@ type pointSet uint32
 
 func singlePoint(x int64) pointSet { return 1 << uint(x) }
 
+// pointsBelow returns the set of all points less than n.
+func pointsBelow(n int64) pointSet { return pointSet(uint64(1)<<uint(n) - 1) }
+
 func pointSetOf(list []int64) (pointSet, bool) {
 	if !ValidSet(list, MaxPoints) {
 		return 0, false
@@ -193,6 +199,8 @@ func pointSetOf(list []int64) (pointSet, bool) {
 	}
 	return set, true
 }
+
+func (s pointSet) has(x int64) bool { return s&singlePoint(x) != 0 }
 
 func (s pointSet) union(t pointSet) pointSet { return s | t }
 

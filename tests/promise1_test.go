@@ -63,9 +63,15 @@ func TestPurity(t *testing.T) {
 		"ValidSquare": impl.ValidSquare, "SameSquare": impl.SameSquare, "CyclicSquare": impl.CyclicSquare, "ProductSquare": impl.ProductSquare,
 		"Conjugate": impl.Conjugate, "Isotope": impl.Isotope, "IsReduced": impl.IsReduced, "ReducedSquare": impl.ReducedSquare,
 		"SymbolColumns": impl.SymbolColumns, "SquareText": impl.SquareText, "ReadSquare": impl.ReadSquare,
+		"FieldSquare": impl.FieldSquare, "FieldMols": impl.FieldMols, "Orthogonal": impl.Orthogonal, "ValidMols": impl.ValidMols, "Superpose": impl.Superpose,
+		"ProductMols": impl.ProductMols, "IsTransversal": impl.IsTransversal, "TransversalsOf": impl.TransversalsOf,
+		"TransversalsOfMate": impl.TransversalsOfMate, "MateOf": impl.MateOf,
 	}
 	for name, f := range functions {
-		t.Run(name, func(t *testing.T) { checkPure(t, name, f) })
+		t.Run(name, func(t *testing.T) {
+			t.Parallel()
+			checkPure(t, name, f)
+		})
 	}
 }
 

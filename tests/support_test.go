@@ -73,14 +73,14 @@ func reversed(n int64) []int64 {
 	return list
 }
 
-// wildNumbers are numbers at and around the limits of chapters 1 to 6.
+// wildNumbers are numbers at and around the limits of chapters 1 to 7.
 func wildNumbers(parameters int) []int64 {
 	few := []int64{math.MinInt64, -1, 0, 1, 6, 7, impl.MaxModulus, impl.MaxModulus + 1, math.MaxInt64}
 	if parameters > 3 {
 		return few
 	}
 	return append(few, -impl.MaxNumber-1, -impl.MaxNumber, -7, 2, 3, 4, 9, 10, impl.MaxRanked, impl.MaxRanked+1, 479001599, 479001600, impl.MaxPoints-1, impl.MaxPoints, impl.MaxPoints+1,
-		impl.MaxField-1, impl.MaxField, impl.MaxField+1, 997, 1009, impl.CrcStart, impl.CrcStart+1, 999983, impl.MaxNumber, impl.MaxNumber+1, 601080389, 601080390)
+		impl.MaxField-1, impl.MaxField, impl.MaxField+1, impl.MaxList, impl.MaxList+1, impl.MaxBudget, impl.MaxBudget+1, 997, 1009, impl.CrcStart, impl.CrcStart+1, 999983, impl.MaxNumber, impl.MaxNumber+1, 601080389, 601080390)
 }
 
 func wildLists(parameters int) [][]int64 {
@@ -122,7 +122,19 @@ func wildRows() [][][]int64 {
 		{{1, 2, 3, 4, 5, 0}, {1, 0, 2, 3, 4, 5}}, {{1, 2, 3, 4, 5, 6, 0}, {1, 0, 2, 3, 4, 5, 6}}, {reversed(impl.MaxDegree)}, {upTo(impl.MaxDegree + 1)},
 		{reversed(10), upTo(10)}, {{31}, {30, 0}}, {{32}}, {{-1}}, {{math.MinInt64, math.MaxInt64}}, slices.Repeat([][]int64{{1, 0}}, 1000),
 		{{0, 1}, {1, 0}}, {{1, 0}, {0, 1}}, {{0, 1}, {0, 1}}, {{0, 1}, {1, 2}}, {{0, 1}, {1}}, {{1, 0, 2}, {0, 2, 1}, {2, 1, 0}}, {{0, 1, 2}, {1, 2, 0}}, looseSquare(),
-		slowCyclic(3), scrambled(4, 1), scrambled(10, 1), slowCyclic(11), slices.Repeat([][]int64{upTo(10)}, 10),
+		slowCyclic(3), {{0, 1, 2}, {2, 0, 1}, {1, 2, 0}}, scrambled(4, 1), scrambled(10, 1), slowCyclic(11), slices.Repeat([][]int64{upTo(10)}, 10),
+	}
+}
+
+// wildTables are lists of squares that are mutually orthogonal or not, and of others.
+func wildTables() [][][][]int64 {
+	three, four := slowCyclic(3), slowCyclic(4)
+	mate := [][]int64{{0, 1, 2}, {2, 0, 1}, {1, 2, 0}}
+	one := [][][]int64{{{0}}}
+	return [][][][]int64{
+		nil, {nil}, {{nil}}, one, slices.Repeat(one, impl.MaxOrder), slices.Repeat(one, impl.MaxOrder+1), slices.Repeat(one, 1000), {{{0, 1}, {1, 0}}}, {{{0, 1}, {0, 1}}},
+		{three}, {three, mate}, {mate, three}, {three, three}, {three, mate, three}, {three, four}, {four}, {four, nil}, {three, {nil}}, {slowCyclic(5), looseSquare()},
+		slowMols(4), slowMols(5), slowMols(9), {scrambled(10, 1)}, tenMols(), {slowCyclic(11)}, {{{math.MinInt64, math.MaxInt64}}},
 	}
 }
 
@@ -167,6 +179,10 @@ func wildArguments(t *testing.T, of reflect.Type, parameters int) []any {
 		for _, rows := range wildRows() {
 			all = append(all, rows)
 		}
+	case reflect.TypeOf([][][]int64{}):
+		for _, tables := range wildTables() {
+			all = append(all, tables)
+		}
 	case reflect.TypeOf(impl.Group{}):
 		for _, g := range wildGroups() {
 			all = append(all, g)
@@ -184,6 +200,8 @@ func withRoom(v any) any {
 		return listWithRoom(v)
 	case [][]int64:
 		return rowsWithRoom(v)
+	case [][][]int64:
+		return tablesWithRoom(v)
 	case impl.Field:
 		v.Poly = listWithRoom(v.Poly)
 		return v
@@ -208,13 +226,28 @@ func rowsWithRoom(rows [][]int64) [][]int64 {
 	return room[:len(rows)]
 }
 
-// rowsOf returns the list of lists that a value is or has.
-func rowsOf(v any) [][]int64 {
+func tablesWithRoom(tables [][][]int64) [][][]int64 {
+	room := make([][][]int64, 0, len(tables)+2)
+	for _, rows := range tables {
+		room = append(room, rowsWithRoom(rows))
+	}
+	room = append(room, [][]int64{{77}}, [][]int64{{78}, {79}})
+	return room[:len(tables)]
+}
+
+// tablesOf returns the lists of lists that a value is or has, among them those in the spare capacity.
+func tablesOf(v any) [][][]int64 {
 	switch v := v.(type) {
 	case [][]int64:
-		return v
+		return [][][]int64{v[:cap(v)]}
 	case impl.Group:
-		return v.Elements
+		return [][][]int64{v.Elements[:cap(v.Elements)]}
+	case [][][]int64:
+		var tables [][][]int64
+		for _, rows := range v[:cap(v)] {
+			tables = append(tables, rows[:cap(rows)])
+		}
+		return tables
 	}
 	return nil
 }
@@ -227,8 +260,7 @@ func listsOf(v any) [][]int64 {
 	case impl.Field:
 		return [][]int64{v.Poly}
 	}
-	rows := rowsOf(v)
-	return rows[:cap(rows)]
+	return slices.Concat(tablesOf(v)...)
 }
 
 // wholeText prints values together with the spare capacity of their lists.
@@ -260,8 +292,12 @@ func spoil(values []any) bool {
 		shared = shared || !slices.Equal(list, repeated(len(list), -987654-int64(i)))
 	}
 	for _, v := range values {
-		rows := rowsOf(v)
-		clear(rows[:cap(rows)])
+		for _, rows := range tablesOf(v) {
+			clear(rows)
+		}
+		if tables, ok := v.([][][]int64); ok {
+			clear(tables[:cap(tables)])
+		}
 	}
 	return shared
 }

@@ -66,6 +66,13 @@ func TestPurity(t *testing.T) {
 		"FieldSquare": impl.FieldSquare, "FieldMols": impl.FieldMols, "Orthogonal": impl.Orthogonal, "ValidMols": impl.ValidMols, "Superpose": impl.Superpose,
 		"ProductMols": impl.ProductMols, "IsTransversal": impl.IsTransversal, "TransversalsOf": impl.TransversalsOf,
 		"TransversalsOfMate": impl.TransversalsOfMate, "MateOf": impl.MateOf,
+		"IdentityName": impl.IdentityName, "IdentitiesOf": impl.IdentitiesOf, "UnitOf": impl.UnitOf, "IsGroupBased": impl.IsGroupBased,
+		"QuadranglesHold": impl.QuadranglesHold, "ClosureIn": impl.ClosureIn, "IsSubsquare": impl.IsSubsquare, "IntercalatesOf": impl.IntercalatesOf,
+		"SwitchIntercalate": impl.SwitchIntercalate, "RowMap": impl.RowMap, "ParitiesOf": impl.ParitiesOf,
+		"ValidPartial": impl.ValidPartial, "FilledCells": impl.FilledCells, "ClearCells": impl.ClearCells, "CandidatesAt": impl.CandidatesAt,
+		"FillCell": impl.FillCell, "PropagatePartial": impl.PropagatePartial, "CompletePartial": impl.CompletePartial,
+		"CountCompletions": impl.CountCompletions, "ExtendRectangle": impl.ExtendRectangle, "IsCritical": impl.IsCritical,
+		"PartialText": impl.PartialText, "ReadPartial": impl.ReadPartial,
 	}
 	for name, f := range functions {
 		t.Run(name, func(t *testing.T) {
@@ -96,6 +103,9 @@ func TestFailuresReturnZeros(t *testing.T) {
 		}
 		if a, ok := impl.ReadSquare(s); !ok {
 			failed(t, "ReadSquare", 0, 0, a)
+		}
+		if p, ok := impl.ReadPartial(s); !ok {
+			failed(t, "ReadPartial", 0, 0, p)
 		}
 	}
 }

@@ -601,7 +601,7 @@ func TestSquaresAreRestored(t *testing.T) {
 func TestNoSquares(t *testing.T) {
 	for _, s := range []string{
 		"", " ", "-", "-1", "a", "/", "//", "1", "00", "0/", "/0", "0/0", "0//0", "01", "01/", "01/1", "01/10/", "/01/10", "01//10", "01/10/01", "01/10 ", " 01/10", "01/10\n", "01/10\x00", "01/1O",
-		"01\n10", "01,10", "01\\10", "01|10", "0110", "01/01", "00/11", "01/12", "12/21", "10/10", "0 1/1 0", "0,1/1,0", "+0", "-0", "00/00", "0.", "01/1\xb0", "01/1\xff0",
+		".", "..", "./.", "0./.0", "../..", "01/1.", "01/10.", "01.10", "012/120/20.", "01\n10", "01,10", "01\\10", "01|10", "0110", "01/01", "00/11", "01/12", "12/21", "10/10", "0 1/1 0", "0,1/1,0", "+0", "-0", "00/00", "0.", "01/1\xb0", "01/1\xff0",
 		"\u0660", "\uff10", "\u0660\u0661/\u0661\u0660", "01\u204410", "01/10\ufeff", "\ufeff01/10", "012/120", "012/120/20", "012/120/2011", "012/120/201/", "012/120/201/012", "012/120/210",
 		"012/102/210", "0123/1032/2301/321", "0123/1032/2301/3201", slowText(slowCyclic(11)), slowText(slowCyclic(10)[:9]), slowText(slowCyclic(10)) + "/", "abc/bca/cab",
 		"0123456789:/123456789:0/23456789:01/3456789:012/456789:0123/56789:01234/6789:012345/789:0123456/89:01234567/9:012345678/:0123456789",
@@ -615,7 +615,7 @@ func TestNoSquares(t *testing.T) {
 
 // TestShortTexts reads all texts of at most 5 of some bytes.
 func TestShortTexts(t *testing.T) {
-	bytes := []byte("012/-:\xd9")
+	bytes := []byte("012/.-:\xd9")
 	var read []string
 	for length := range int64(6) {
 		for number := range power(int64(len(bytes)), length) {
@@ -638,7 +638,7 @@ func TestDamagedTexts(t *testing.T) {
 	for _, a := range fewSquares() {
 		text := slowText(a)
 		for i := range text {
-			for _, c := range []byte("0123456789/ :-a\x00\xff") {
+			for _, c := range []byte("0123456789/. :-a\x00\xff") {
 				if text[i] != c {
 					checkNoSquare(t, text[:i]+string([]byte{c})+text[i+1:])
 				}

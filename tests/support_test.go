@@ -73,7 +73,7 @@ func reversed(n int64) []int64 {
 	return list
 }
 
-// wildNumbers are numbers at and around the limits of chapters 1 to 7.
+// wildNumbers are numbers at and around the limits of chapters 1 to 9.
 func wildNumbers(parameters int) []int64 {
 	few := []int64{math.MinInt64, -1, 0, 1, 6, 7, impl.MaxModulus, impl.MaxModulus + 1, math.MaxInt64}
 	if parameters > 3 {
@@ -90,7 +90,7 @@ func wildLists(parameters int) [][]int64 {
 	return [][]int64{
 		nil, {0}, {3}, {31}, {32}, {-1}, {1, 0}, {1, 1}, {0, 2, 3}, {0, 5, 4}, {2, 3, 31}, {0, 32}, {-5, 0},
 		{1, 2, 0}, {0, 2, 1, 3}, {1, 2, 0, 4, 3}, reversed(impl.MaxRanked), reversed(impl.MaxRanked + 1), reversed(impl.MaxDegree),
-		upTo(10), upTo(impl.MaxPoints), upTo(impl.MaxPoints + 1), upTo(impl.MaxList), upTo(impl.MaxList + 1),
+		{0, 2, 0, 2}, {0, 1, 0, 1}, {2, 0, 2, 0}, upTo(10), upTo(impl.MaxPoints), upTo(impl.MaxPoints + 1), upTo(impl.MaxList), upTo(impl.MaxList + 1),
 		{999999999, -999999999}, {1000000000}, {math.MinInt64, math.MaxInt64},
 	}
 }
@@ -101,6 +101,7 @@ func wildStrings() []string {
 		"999999999999999999", "-999999999999999999", "1000000000000000000", "9223372036854775808", "1,2", "1,,2", ",", "1,", "-1,-", "1, 2",
 		"  a bc ", "a\tb\nc", "\xff \xfe", "\u0661", "123456789", strings.Repeat("7", 5000), strings.Repeat("1,", 200) + "1", strings.Repeat(" x", 300),
 		"01/10", "01/10/", "01/01", "012/120/201", "012/201/210", slowText(slowCyclic(10)), slowText(slowCyclic(11)),
+		".", "0./.0", "0./0.", "012/.../...", "012/.../..", slowPartialText(emptyPartial(10)), slowPartialText(emptyPartial(11)),
 	}
 }
 
@@ -114,7 +115,7 @@ func wildFields() []impl.Field {
 	}
 }
 
-// wildRows are lists of cycles, of generators, of rows of squares, and of others.
+// wildRows are lists of cycles, of generators, of rows of squares and partial squares, and of others.
 func wildRows() [][][]int64 {
 	return [][][]int64{
 		nil, {nil}, {{0}}, {{1}}, {{1, 0}}, {{0}, {}}, {{0, 1}, {2, 3}}, {{0, 1}, {1, 2}}, {{3, 4}, {0, 1, 2}}, {{5, 2, 0, 1}}, {{0, 0}},
@@ -123,6 +124,7 @@ func wildRows() [][][]int64 {
 		{reversed(10), upTo(10)}, {{31}, {30, 0}}, {{32}}, {{-1}}, {{math.MinInt64, math.MaxInt64}}, slices.Repeat([][]int64{{1, 0}}, 1000),
 		{{0, 1}, {1, 0}}, {{1, 0}, {0, 1}}, {{0, 1}, {0, 1}}, {{0, 1}, {1, 2}}, {{0, 1}, {1}}, {{1, 0, 2}, {0, 2, 1}, {2, 1, 0}}, {{0, 1, 2}, {1, 2, 0}}, looseSquare(),
 		slowCyclic(3), {{0, 1, 2}, {2, 0, 1}, {1, 2, 0}}, scrambled(4, 1), scrambled(10, 1), slowCyclic(11), slices.Repeat([][]int64{upTo(10)}, 10),
+		{{0, -1}, {-1, 0}}, {{0, -1}, {-1, 1}}, {{0, -1}, {0, -1}}, {{0, -1}, {-1, -2}}, {{0, 1, 2}, {-1, -1, -1}, {-1, -1, -1}}, {{0, 1, -1}, {1, -1, -1}, {-1, -1, -1}}, emptyPartial(4), emptyPartial(10), emptyPartial(11),
 	}
 }
 

@@ -208,8 +208,10 @@ func (s pointSet) meet(t pointSet) pointSet { return s & t }
 
 func (s pointSet) minus(t pointSet) pointSet { return s &^ t }
 
+func (s pointSet) size() int64 { return int64(bits.OnesCount32(uint32(s))) }
+
 func (s pointSet) points() []int64 {
-	var list []int64
+	list := make([]int64, 0, s.size())
 	for rest := s; rest != 0; rest &= rest - 1 {
 		list = append(list, int64(bits.TrailingZeros32(uint32(rest))))
 	}

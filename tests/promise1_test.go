@@ -73,6 +73,10 @@ func TestPurity(t *testing.T) {
 		"FillCell": impl.FillCell, "PropagatePartial": impl.PropagatePartial, "CompletePartial": impl.CompletePartial,
 		"CountCompletions": impl.CountCompletions, "ExtendRectangle": impl.ExtendRectangle, "IsCritical": impl.IsCritical,
 		"PartialText": impl.PartialText, "ReadPartial": impl.ReadPartial,
+		"ValidDesign": impl.ValidDesign, "SameDesign": impl.SameDesign, "SortDesign": impl.SortDesign, "ReplicationsOf": impl.ReplicationsOf,
+		"PairCounts": impl.PairCounts, "ParametersOf": impl.ParametersOf, "MeetingsOf": impl.MeetingsOf, "ComplementDesign": impl.ComplementDesign,
+		"DualDesign": impl.DualDesign, "DerivedDesign": impl.DerivedDesign, "ResidualDesign": impl.ResidualDesign, "SumDesigns": impl.SumDesigns,
+		"RelabelDesign": impl.RelabelDesign, "IncidenceMatrix": impl.IncidenceMatrix, "DesignOfMatrix": impl.DesignOfMatrix,
 	}
 	for name, f := range functions {
 		t.Run(name, func(t *testing.T) {

@@ -73,11 +73,14 @@ func reversed(n int64) []int64 {
 	return list
 }
 
-// wildNumbers are numbers at and around the limits of chapters 1 to 9.
+// wildNumbers are numbers at and around the limits of chapters 1 to 10.
 func wildNumbers(parameters int) []int64 {
 	few := []int64{math.MinInt64, -1, 0, 1, 6, 7, impl.MaxModulus, impl.MaxModulus + 1, math.MaxInt64}
 	if parameters > 3 {
 		return few
+	}
+	if parameters < 3 {
+		few = append(few, impl.MaxBlocks-1, impl.MaxBlocks)
 	}
 	return append(few, -impl.MaxNumber-1, -impl.MaxNumber, -7, 2, 3, 4, 9, 10, impl.MaxRanked, impl.MaxRanked+1, 479001599, 479001600, impl.MaxPoints-1, impl.MaxPoints, impl.MaxPoints+1,
 		impl.MaxField-1, impl.MaxField, impl.MaxField+1, impl.MaxList, impl.MaxList+1, impl.MaxBudget, impl.MaxBudget+1, 997, 1009, impl.CrcStart, impl.CrcStart+1, 999983, impl.MaxNumber, impl.MaxNumber+1, 601080389, 601080390)
@@ -128,6 +131,17 @@ func wildRows() [][][]int64 {
 	}
 }
 
+// wildBlocks are lists of blocks and of rows of matrices; functions of many parameters are not given them, to save time.
+func wildBlocks(parameters int) [][][]int64 {
+	if parameters > 2 {
+		return nil
+	}
+	return [][][]int64{
+		{{2}, {0, 1}, {0, 1}, {0}}, {{0, 1, 2, 3}, {0, 3}, {31}}, fano().Blocks, slices.Repeat([][]int64{{0, 2}}, impl.MaxBlocks), slices.Repeat([][]int64{{0}}, impl.MaxBlocks+1),
+		{{1}, {1}}, {{0}, {1}}, {{1, 0, 1, 0}, {0, 1, 1, 1}}, {{1, 0, 1}, {0, 0, 1}}, {{}, {}}, slices.Repeat([][]int64{repeated(impl.MaxBlocks, 1)}, impl.MaxPoints), {repeated(impl.MaxBlocks+1, 1)},
+	}
+}
+
 // wildTables are lists of squares that are mutually orthogonal or not, and of others.
 func wildTables() [][][][]int64 {
 	three, four := slowCyclic(3), slowCyclic(4)
@@ -156,6 +170,16 @@ func wildGroups() []impl.Group {
 	return groups
 }
 
+// wildDesigns are valid and invalid designs.
+func wildDesigns() []impl.Design {
+	return []impl.Design{
+		{}, {Points: 1}, {Points: 4}, {Points: impl.MaxPoints}, {Points: impl.MaxPoints + 1}, {Points: math.MinInt64}, {Points: math.MaxInt64}, designWith(0, nil), designWith(1, []int64{0}), designWith(2, []int64{0, 1}), designWith(2, []int64{0}, []int64{0, 1}),
+		designWith(3, []int64{0, 1}, []int64{0, 1}, []int64{0, 2}), designWith(3, []int64{1, 2}, []int64{0, 1}), designWith(3, []int64{0}, nil), designWith(3, []int64{3}), designWith(3, []int64{1, 0}), designWith(3, []int64{-1}), designWith(3, []int64{math.MinInt64, math.MaxInt64}),
+		designWith(4, []int64{0, 1, 2}, []int64{0, 1, 2}, []int64{2, 3}), designWith(4, []int64{0, 3}, []int64{1, 2}), fano(), slowPlane(3), crosses(), times(fano(), 18), times(fano(), 19), designWith(impl.MaxPoints, upTo(impl.MaxPoints-1), upTo(impl.MaxPoints)),
+		times(designWith(impl.MaxPoints, upTo(impl.MaxPoints)), impl.MaxBlocks), times(designWith(impl.MaxPoints, []int64{31}), impl.MaxBlocks+1), scattered(10, 20), scattered(12, 64),
+	}
+}
+
 // wildArguments returns arguments of a type of parameter.
 func wildArguments(t *testing.T, of reflect.Type, parameters int) []any {
 	t.Helper()
@@ -178,7 +202,7 @@ func wildArguments(t *testing.T, of reflect.Type, parameters int) []any {
 			all = append(all, f)
 		}
 	case reflect.TypeOf([][]int64{}):
-		for _, rows := range wildRows() {
+		for _, rows := range slices.Concat(wildRows(), wildBlocks(parameters)) {
 			all = append(all, rows)
 		}
 	case reflect.TypeOf([][][]int64{}):
@@ -188,6 +212,10 @@ func wildArguments(t *testing.T, of reflect.Type, parameters int) []any {
 	case reflect.TypeOf(impl.Group{}):
 		for _, g := range wildGroups() {
 			all = append(all, g)
+		}
+	case reflect.TypeOf(impl.Design{}):
+		for _, d := range wildDesigns() {
+			all = append(all, d)
 		}
 	default:
 		t.Fatalf("no arguments of the type %v", of)
@@ -209,6 +237,9 @@ func withRoom(v any) any {
 		return v
 	case impl.Group:
 		v.Elements = rowsWithRoom(v.Elements)
+		return v
+	case impl.Design:
+		v.Blocks = rowsWithRoom(v.Blocks)
 		return v
 	}
 	return v
@@ -244,6 +275,8 @@ func tablesOf(v any) [][][]int64 {
 		return [][][]int64{v[:cap(v)]}
 	case impl.Group:
 		return [][][]int64{v.Elements[:cap(v.Elements)]}
+	case impl.Design:
+		return [][][]int64{v.Blocks[:cap(v.Blocks)]}
 	case [][][]int64:
 		var tables [][][]int64
 		for _, rows := range v[:cap(v)] {

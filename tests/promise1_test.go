@@ -77,6 +77,9 @@ func TestPurity(t *testing.T) {
 		"PairCounts": impl.PairCounts, "ParametersOf": impl.ParametersOf, "MeetingsOf": impl.MeetingsOf, "ComplementDesign": impl.ComplementDesign,
 		"DualDesign": impl.DualDesign, "DerivedDesign": impl.DerivedDesign, "ResidualDesign": impl.ResidualDesign, "SumDesigns": impl.SumDesigns,
 		"RelabelDesign": impl.RelabelDesign, "IncidenceMatrix": impl.IncidenceMatrix, "DesignOfMatrix": impl.DesignOfMatrix,
+		"TripleOrders": impl.TripleOrders, "MakeTriples": impl.MakeTriples, "IsTripleSystem": impl.IsTripleSystem, "ThirdPoint": impl.ThirdPoint,
+		"TripleSquare": impl.TripleSquare, "TriplesOfSquare": impl.TriplesOfSquare, "TripleLoop": impl.TripleLoop, "CyclesOfPair": impl.CyclesOfPair,
+		"PaschsOf": impl.PaschsOf, "SwitchPasch": impl.SwitchPasch, "ProductTriples": impl.ProductTriples,
 	}
 	for name, f := range functions {
 		t.Run(name, func(t *testing.T) {

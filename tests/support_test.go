@@ -73,7 +73,7 @@ func reversed(n int64) []int64 {
 	return list
 }
 
-// wildNumbers are numbers at and around the limits of chapters 1 to 10.
+// wildNumbers are numbers at and around the limits of chapters 1 to 11.
 func wildNumbers(parameters int) []int64 {
 	few := []int64{math.MinInt64, -1, 0, 1, 6, 7, impl.MaxModulus, impl.MaxModulus + 1, math.MaxInt64}
 	if parameters > 3 {
@@ -81,6 +81,9 @@ func wildNumbers(parameters int) []int64 {
 	}
 	if parameters < 3 {
 		few = append(few, impl.MaxBlocks-1, impl.MaxBlocks)
+	}
+	if parameters < 2 {
+		few = append(few, 8, 13, 15, 19, 21, 25, 27, 37)
 	}
 	return append(few, -impl.MaxNumber-1, -impl.MaxNumber, -7, 2, 3, 4, 9, 10, impl.MaxRanked, impl.MaxRanked+1, 479001599, 479001600, impl.MaxPoints-1, impl.MaxPoints, impl.MaxPoints+1,
 		impl.MaxField-1, impl.MaxField, impl.MaxField+1, impl.MaxList, impl.MaxList+1, impl.MaxBudget, impl.MaxBudget+1, 997, 1009, impl.CrcStart, impl.CrcStart+1, 999983, impl.MaxNumber, impl.MaxNumber+1, 601080389, 601080390)
@@ -91,7 +94,7 @@ func wildLists(parameters int) [][]int64 {
 		return [][]int64{nil, {0}, {1, 0}, {1, 2, 0}, {0, 2, 1}, {1, 1, 0}, reversed(10)}
 	}
 	return [][]int64{
-		nil, {0}, {3}, {31}, {32}, {-1}, {1, 0}, {1, 1}, {0, 2, 3}, {0, 5, 4}, {2, 3, 31}, {0, 32}, {-5, 0},
+		nil, {0}, {3}, {31}, {32}, {-1}, {1, 0}, {1, 1}, {0, 2, 3}, {0, 5, 4}, {3, 4, 5, 6}, {0, 0, 1, 1}, {2, 3, 31}, {0, 32}, {-5, 0},
 		{1, 2, 0}, {0, 2, 1, 3}, {1, 2, 0, 4, 3}, reversed(impl.MaxRanked), reversed(impl.MaxRanked + 1), reversed(impl.MaxDegree),
 		{0, 2, 0, 2}, {0, 1, 0, 1}, {2, 0, 2, 0}, upTo(10), upTo(impl.MaxPoints), upTo(impl.MaxPoints + 1), upTo(impl.MaxList), upTo(impl.MaxList + 1),
 		{999999999, -999999999}, {1000000000}, {math.MinInt64, math.MaxInt64},
@@ -125,7 +128,7 @@ func wildRows() [][][]int64 {
 		{{1, 2, 0}}, {{1, 2, 3, 0}, {0, 3, 2, 1}}, {{1, 2, 3, 0}, {1, 0, 2, 3}, {0, 1, 2, 3}}, {{0, 1, 2, 3}, {0, 1, 2}}, {{1, 1, 2, 3}},
 		{{1, 2, 3, 4, 5, 0}, {1, 0, 2, 3, 4, 5}}, {{1, 2, 3, 4, 5, 6, 0}, {1, 0, 2, 3, 4, 5, 6}}, {reversed(impl.MaxDegree)}, {upTo(impl.MaxDegree + 1)},
 		{reversed(10), upTo(10)}, {{31}, {30, 0}}, {{32}}, {{-1}}, {{math.MinInt64, math.MaxInt64}}, slices.Repeat([][]int64{{1, 0}}, 1000),
-		{{0, 1}, {1, 0}}, {{1, 0}, {0, 1}}, {{0, 1}, {0, 1}}, {{0, 1}, {1, 2}}, {{0, 1}, {1}}, {{1, 0, 2}, {0, 2, 1}, {2, 1, 0}}, {{0, 1, 2}, {1, 2, 0}}, looseSquare(),
+		{{0, 1}, {1, 0}}, {{1, 0}, {0, 1}}, {{0, 1}, {0, 1}}, {{0, 1}, {1, 2}}, {{0, 1}, {1}}, {{1, 0, 2}, {0, 2, 1}, {2, 1, 0}}, {{0, 1, 2}, {1, 2, 0}}, looseSquare(), fanoSquare(), {{0, 2, 1}, {2, 1, 0}, {1, 0, 2}},
 		slowCyclic(3), {{0, 1, 2}, {2, 0, 1}, {1, 2, 0}}, scrambled(4, 1), scrambled(10, 1), slowCyclic(11), slices.Repeat([][]int64{upTo(10)}, 10),
 		{{0, -1}, {-1, 0}}, {{0, -1}, {-1, 1}}, {{0, -1}, {0, -1}}, {{0, -1}, {-1, -2}}, {{0, 1, 2}, {-1, -1, -1}, {-1, -1, -1}}, {{0, 1, -1}, {1, -1, -1}, {-1, -1, -1}}, emptyPartial(4), emptyPartial(10), emptyPartial(11),
 	}
@@ -170,14 +173,21 @@ func wildGroups() []impl.Group {
 	return groups
 }
 
-// wildDesigns are valid and invalid designs.
-func wildDesigns() []impl.Design {
-	return []impl.Design{
-		{}, {Points: 1}, {Points: 4}, {Points: impl.MaxPoints}, {Points: impl.MaxPoints + 1}, {Points: math.MinInt64}, {Points: math.MaxInt64}, designWith(0, nil), designWith(1, []int64{0}), designWith(2, []int64{0, 1}), designWith(2, []int64{0}, []int64{0, 1}),
-		designWith(3, []int64{0, 1}, []int64{0, 1}, []int64{0, 2}), designWith(3, []int64{1, 2}, []int64{0, 1}), designWith(3, []int64{0}, nil), designWith(3, []int64{3}), designWith(3, []int64{1, 0}), designWith(3, []int64{-1}), designWith(3, []int64{math.MinInt64, math.MaxInt64}),
-		designWith(4, []int64{0, 1, 2}, []int64{0, 1, 2}, []int64{2, 3}), designWith(4, []int64{0, 3}, []int64{1, 2}), fano(), slowPlane(3), crosses(), times(fano(), 18), times(fano(), 19), designWith(impl.MaxPoints, upTo(impl.MaxPoints-1), upTo(impl.MaxPoints)),
-		times(designWith(impl.MaxPoints, upTo(impl.MaxPoints)), impl.MaxBlocks), times(designWith(impl.MaxPoints, []int64{31}), impl.MaxBlocks+1), scattered(10, 20), scattered(12, 64),
+// wildDesigns are valid and invalid designs; functions of many parameters are given few of them, to save time.
+func wildDesigns(parameters int) []impl.Design {
+	few := []impl.Design{
+		{}, designWith(3, []int64{1, 2}, []int64{0, 1}), designWith(4, []int64{0, 3}, []int64{1, 2}), slowTriples(3), slowTriples(7), slowTriples(9), slowTriples(27), times(slowTriples(3), 2), allBlocks(4, 3),
 	}
+	if parameters > 2 {
+		return few
+	}
+	return append(few, []impl.Design{
+		{Points: 1}, {Points: 4}, {Points: impl.MaxPoints}, {Points: impl.MaxPoints + 1}, {Points: math.MinInt64}, {Points: math.MaxInt64}, designWith(0, nil), designWith(1, []int64{0}), designWith(2, []int64{0, 1}), designWith(2, []int64{0}, []int64{0, 1}),
+		designWith(3, []int64{0, 1}, []int64{0, 1}, []int64{0, 2}), designWith(3, []int64{0}, nil), designWith(3, []int64{3}), designWith(3, []int64{1, 0}), designWith(3, []int64{-1}), designWith(3, []int64{math.MinInt64, math.MaxInt64}),
+		designWith(4, []int64{0, 1, 2}, []int64{0, 1, 2}, []int64{2, 3}), fano(), slowPlane(3), crosses(), times(fano(), 18), times(fano(), 19), designWith(impl.MaxPoints, upTo(impl.MaxPoints-1), upTo(impl.MaxPoints)),
+		times(designWith(impl.MaxPoints, upTo(impl.MaxPoints)), impl.MaxBlocks), times(designWith(impl.MaxPoints, []int64{31}), impl.MaxBlocks+1), scattered(10, 20), scattered(12, 64),
+		slowTriples(13), withBlock(slowTriples(13), 20, 0, 11, 12),
+	}...)
 }
 
 // wildArguments returns arguments of a type of parameter.
@@ -214,7 +224,7 @@ func wildArguments(t *testing.T, of reflect.Type, parameters int) []any {
 			all = append(all, g)
 		}
 	case reflect.TypeOf(impl.Design{}):
-		for _, d := range wildDesigns() {
+		for _, d := range wildDesigns(parameters) {
 			all = append(all, d)
 		}
 	default:

@@ -80,6 +80,9 @@ func TestPurity(t *testing.T) {
 		"TripleOrders": impl.TripleOrders, "MakeTriples": impl.MakeTriples, "IsTripleSystem": impl.IsTripleSystem, "ThirdPoint": impl.ThirdPoint,
 		"TripleSquare": impl.TripleSquare, "TriplesOfSquare": impl.TriplesOfSquare, "TripleLoop": impl.TripleLoop, "CyclesOfPair": impl.CyclesOfPair,
 		"PaschsOf": impl.PaschsOf, "SwitchPasch": impl.SwitchPasch, "ProductTriples": impl.ProductTriples,
+		"AffineOrder": impl.AffineOrder, "ProjectiveOrder": impl.ProjectiveOrder, "AffinePlane": impl.AffinePlane, "ProjectivePlane": impl.ProjectivePlane,
+		"ParallelClasses": impl.ParallelClasses, "CompletePlane": impl.CompletePlane, "RemoveLine": impl.RemoveLine, "LineThrough": impl.LineThrough,
+		"PlaneOfMols": impl.PlaneOfMols, "MolsOfPlane": impl.MolsOfPlane, "IsArc": impl.IsArc,
 	}
 	for name, f := range functions {
 		t.Run(name, func(t *testing.T) {

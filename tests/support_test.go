@@ -73,7 +73,7 @@ func reversed(n int64) []int64 {
 	return list
 }
 
-// wildNumbers are numbers at and around the limits of chapters 1 to 11.
+// wildNumbers are numbers at and around the limits of chapters 1 to 12.
 func wildNumbers(parameters int) []int64 {
 	few := []int64{math.MinInt64, -1, 0, 1, 6, 7, impl.MaxModulus, impl.MaxModulus + 1, math.MaxInt64}
 	if parameters > 3 {
@@ -83,7 +83,7 @@ func wildNumbers(parameters int) []int64 {
 		few = append(few, impl.MaxBlocks-1, impl.MaxBlocks)
 	}
 	if parameters < 2 {
-		few = append(few, 8, 13, 15, 19, 21, 25, 27, 37)
+		few = append(few, 5, 8, 13, 15, 19, 21, 25, 27, 37)
 	}
 	return append(few, -impl.MaxNumber-1, -impl.MaxNumber, -7, 2, 3, 4, 9, 10, impl.MaxRanked, impl.MaxRanked+1, 479001599, 479001600, impl.MaxPoints-1, impl.MaxPoints, impl.MaxPoints+1,
 		impl.MaxField-1, impl.MaxField, impl.MaxField+1, impl.MaxList, impl.MaxList+1, impl.MaxBudget, impl.MaxBudget+1, 997, 1009, impl.CrcStart, impl.CrcStart+1, 999983, impl.MaxNumber, impl.MaxNumber+1, 601080389, 601080390)
@@ -153,7 +153,7 @@ func wildTables() [][][][]int64 {
 	return [][][][]int64{
 		nil, {nil}, {{nil}}, one, slices.Repeat(one, impl.MaxOrder), slices.Repeat(one, impl.MaxOrder+1), slices.Repeat(one, 1000), {{{0, 1}, {1, 0}}}, {{{0, 1}, {0, 1}}},
 		{three}, {three, mate}, {mate, three}, {three, three}, {three, mate, three}, {three, four}, {four}, {four, nil}, {three, {nil}}, {slowCyclic(5), looseSquare()},
-		slowMols(4), slowMols(5), slowMols(9), {scrambled(10, 1)}, tenMols(), {slowCyclic(11)}, {{{math.MinInt64, math.MaxInt64}}},
+		slowMols(4), slowMols(5), slowMols(5)[1:], slowMols(9), {scrambled(10, 1)}, tenMols(), {slowCyclic(11)}, {{{math.MinInt64, math.MaxInt64}}},
 	}
 }
 
@@ -186,7 +186,7 @@ func wildDesigns(parameters int) []impl.Design {
 		designWith(3, []int64{0, 1}, []int64{0, 1}, []int64{0, 2}), designWith(3, []int64{0}, nil), designWith(3, []int64{3}), designWith(3, []int64{1, 0}), designWith(3, []int64{-1}), designWith(3, []int64{math.MinInt64, math.MaxInt64}),
 		designWith(4, []int64{0, 1, 2}, []int64{0, 1, 2}, []int64{2, 3}), fano(), slowPlane(3), crosses(), times(fano(), 18), times(fano(), 19), designWith(impl.MaxPoints, upTo(impl.MaxPoints-1), upTo(impl.MaxPoints)),
 		times(designWith(impl.MaxPoints, upTo(impl.MaxPoints)), impl.MaxBlocks), times(designWith(impl.MaxPoints, []int64{31}), impl.MaxBlocks+1), scattered(10, 20), scattered(12, 64),
-		slowTriples(13), withBlock(slowTriples(13), 20, 0, 11, 12),
+		slowTriples(13), withBlock(slowTriples(13), 20, 0, 11, 12), allBlocks(4, 2), slowPlane(5), slowProjective(4), slowProjective(5), renamed(slowAffine(4), mixed(16, 1)),
 	}...)
 }
 
@@ -399,7 +399,20 @@ func checkCall(t *testing.T, name string, f reflect.Value, arguments []any) {
 	same(t, what+" returns memory that it keeps", fmt.Sprint(callOf(f, given)), result)
 }
 
-// checkPure calls a function with all combinations of wild arguments.
+// spread returns some elements from all over a list: at most 15000, to save time.
+func spread[T any](list []T) []T {
+	const most, step = 15000, 7919
+	if len(list) <= most {
+		return list
+	}
+	var some []T
+	for i := range most {
+		some = append(some, list[i*step%len(list)])
+	}
+	return some
+}
+
+// checkPure calls a function with combinations of wild arguments: with all, unless they are too many.
 func checkPure(t *testing.T, name string, function any) {
 	t.Helper()
 	f := reflect.ValueOf(function)
@@ -414,7 +427,7 @@ func checkPure(t *testing.T, name string, function any) {
 		}
 		combinations = longer
 	}
-	for _, c := range combinations {
+	for _, c := range spread(combinations) {
 		checkCall(t, name, f, c)
 	}
 }

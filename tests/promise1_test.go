@@ -83,6 +83,9 @@ func TestPurity(t *testing.T) {
 		"AffineOrder": impl.AffineOrder, "ProjectiveOrder": impl.ProjectiveOrder, "AffinePlane": impl.AffinePlane, "ProjectivePlane": impl.ProjectivePlane,
 		"ParallelClasses": impl.ParallelClasses, "CompletePlane": impl.CompletePlane, "RemoveLine": impl.RemoveLine, "LineThrough": impl.LineThrough,
 		"PlaneOfMols": impl.PlaneOfMols, "MolsOfPlane": impl.MolsOfPlane, "IsArc": impl.IsArc,
+		"DifferenceTable": impl.DifferenceTable, "FamilyLambda": impl.FamilyLambda, "DevelopFamily": impl.DevelopFamily, "TranslateSet": impl.TranslateSet,
+		"MultiplySet": impl.MultiplySet, "NormalSet": impl.NormalSet, "PaleySet": impl.PaleySet, "MultipliersOf": impl.MultipliersOf,
+		"FirstDifferenceSet": impl.FirstDifferenceSet, "SingerSet": impl.SingerSet, "IsCyclicDesign": impl.IsCyclicDesign,
 	}
 	for name, f := range functions {
 		t.Run(name, func(t *testing.T) {

@@ -73,9 +73,9 @@ func reversed(n int64) []int64 {
 	return list
 }
 
-// wildNumbers are numbers at and around the limits of chapters 1 to 12.
+// wildNumbers are numbers at and around the limits of chapters 1 to 13.
 func wildNumbers(parameters int) []int64 {
-	few := []int64{math.MinInt64, -1, 0, 1, 6, 7, impl.MaxModulus, impl.MaxModulus + 1, math.MaxInt64}
+	few := []int64{math.MinInt64, -1, 0, 1, 3, 6, 7, impl.MaxModulus, impl.MaxModulus + 1, math.MaxInt64}
 	if parameters > 3 {
 		return few
 	}
@@ -85,7 +85,7 @@ func wildNumbers(parameters int) []int64 {
 	if parameters < 2 {
 		few = append(few, 5, 8, 13, 15, 19, 21, 25, 27, 37)
 	}
-	return append(few, -impl.MaxNumber-1, -impl.MaxNumber, -7, 2, 3, 4, 9, 10, impl.MaxRanked, impl.MaxRanked+1, 479001599, 479001600, impl.MaxPoints-1, impl.MaxPoints, impl.MaxPoints+1,
+	return append(few, -impl.MaxNumber-1, -impl.MaxNumber, -7, 2, 4, 9, 10, impl.MaxRanked, impl.MaxRanked+1, 479001599, 479001600, impl.MaxPoints-1, impl.MaxPoints, impl.MaxPoints+1,
 		impl.MaxField-1, impl.MaxField, impl.MaxField+1, impl.MaxList, impl.MaxList+1, impl.MaxBudget, impl.MaxBudget+1, 997, 1009, impl.CrcStart, impl.CrcStart+1, 999983, impl.MaxNumber, impl.MaxNumber+1, 601080389, 601080390)
 }
 
@@ -134,7 +134,7 @@ func wildRows() [][][]int64 {
 	}
 }
 
-// wildBlocks are lists of blocks and of rows of matrices; functions of many parameters are not given them, to save time.
+// wildBlocks are lists of blocks, of sets of residues and of rows of matrices; functions of many parameters are not given them, to save time.
 func wildBlocks(parameters int) [][][]int64 {
 	if parameters > 2 {
 		return nil
@@ -142,6 +142,7 @@ func wildBlocks(parameters int) [][][]int64 {
 	return [][][]int64{
 		{{2}, {0, 1}, {0, 1}, {0}}, {{0, 1, 2, 3}, {0, 3}, {31}}, fano().Blocks, slices.Repeat([][]int64{{0, 2}}, impl.MaxBlocks), slices.Repeat([][]int64{{0}}, impl.MaxBlocks+1),
 		{{1}, {1}}, {{0}, {1}}, {{1, 0, 1, 0}, {0, 1, 1, 1}}, {{1, 0, 1}, {0, 0, 1}}, {{}, {}}, slices.Repeat([][]int64{repeated(impl.MaxBlocks, 1)}, impl.MaxPoints), {repeated(impl.MaxBlocks+1, 1)},
+		{{0, 1, 3}}, {{0, 1, 3}, {1, 2, 6}}, slices.Repeat([][]int64{{0, 3}}, impl.MaxBase), slices.Repeat([][]int64{{0, 3}}, impl.MaxBase+1),
 	}
 }
 
@@ -185,7 +186,7 @@ func wildDesigns(parameters int) []impl.Design {
 		{Points: 1}, {Points: 4}, {Points: impl.MaxPoints}, {Points: impl.MaxPoints + 1}, {Points: math.MinInt64}, {Points: math.MaxInt64}, designWith(0, nil), designWith(1, []int64{0}), designWith(2, []int64{0, 1}), designWith(2, []int64{0}, []int64{0, 1}),
 		designWith(3, []int64{0, 1}, []int64{0, 1}, []int64{0, 2}), designWith(3, []int64{0}, nil), designWith(3, []int64{3}), designWith(3, []int64{1, 0}), designWith(3, []int64{-1}), designWith(3, []int64{math.MinInt64, math.MaxInt64}),
 		designWith(4, []int64{0, 1, 2}, []int64{0, 1, 2}, []int64{2, 3}), fano(), slowPlane(3), crosses(), times(fano(), 18), times(fano(), 19), designWith(impl.MaxPoints, upTo(impl.MaxPoints-1), upTo(impl.MaxPoints)),
-		times(designWith(impl.MaxPoints, upTo(impl.MaxPoints)), impl.MaxBlocks), times(designWith(impl.MaxPoints, []int64{31}), impl.MaxBlocks+1), scattered(10, 20), scattered(12, 64),
+		times(designWith(impl.MaxPoints, upTo(impl.MaxPoints)), impl.MaxBlocks), times(designWith(impl.MaxPoints, []int64{31}), impl.MaxBlocks+1), allBlocks(impl.MaxPoints, 1), scattered(10, 20), scattered(12, 64),
 		slowTriples(13), withBlock(slowTriples(13), 20, 0, 11, 12), allBlocks(4, 2), slowPlane(5), slowProjective(4), slowProjective(5), renamed(slowAffine(4), mixed(16, 1)),
 	}...)
 }

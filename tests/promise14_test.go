@@ -299,7 +299,7 @@ func TestChangeErrors(t *testing.T) {
 	for name, change := range changes {
 		for _, f := range residueSets() {
 			for _, by := range notResiduesBy(f.n) {
-				for _, set := range f.sets[:2] {
+				for _, set := range [][]int64{nil, {0}, upTo(f.n)} {
 					list, code := change(f.n, set, by)
 					failed(t, fmt.Sprint(name, " of ", set, " and ", by, " modulo ", f.n), code, impl.ErrRange, list)
 				}
